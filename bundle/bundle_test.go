@@ -292,7 +292,7 @@ func TestBases(t *testing.T) {
 		"x:/a/b/ 0", "x:/a/b/c/ 1", "x:/a/b/c/d/ 2", "x:/a/b/c/d/ 2", "x:/a/b/c/e 4")
 }
 
-// P13.2: a $id that is a reference of each kind, without its fragment, at a document's value and deeper.
+// P13.2: a $id that is a reference of each kind, without its fragment, at a document's value and deeper, where it may not come to the document's Uri.
 func TestIdKinds(t *testing.T) {
 	for id, want := range map[string]string{
 		"y:/z":         "y:/z",
@@ -318,7 +318,12 @@ func TestIdKinds(t *testing.T) {
 		"http://a/b/c": "http://a/b/c",
 	} {
 		bases(t, read(t, doc("http://a/b/c?q", `{"$id":"`+id+`","not":true}`)), want+" 0", want+" 0")
-		bases(t, read(t, doc("http://a/b/c?q", `{"not":{"$id":"`+id+`","not":true}}`)), "http://a/b/c?q 0", want+" 1", want+" 1")
+		deeper := doc("http://a/b/c?q", `{"not":{"$id":"`+id+`","not":true}}`)
+		if want == deeper.Uri {
+			refused(t, api.ErrTwice, 0, "/not", deeper)
+			continue
+		}
+		bases(t, read(t, deeper), "http://a/b/c?q 0", want+" 1", want+" 1")
 	}
 }
 
@@ -344,22 +349,36 @@ func TestIds(t *testing.T) {
 		`id x:/a 0`, `id x:/b 0`, `id x:/c 1`, `id y:/d 3`, `id x:/e 4`, `id x:/f 5`)
 }
 
-// P13.2, P13.3: a $id that makes the base that the schema would have anyway makes a resource, but no URI of its own.
+// P13.3, P13.4: a deeper $id that comes to the base that the schema would have anyway is a URI twice: what it stands in has that one, whichever way it came to it.
 func TestIdOfTheSameBase(t *testing.T) {
-	for _, id := range []string{"", "#", "a", "/a", "./a", "x:/a", "x:/a#", "x:/b/../a"} {
-		table := read(t, doc("x:/a", `{"not":{"$id":"`+id+`","not":{"$anchor":"c"}}}`))
-		bases(t, table, "x:/a 0", "x:/a 1", "x:/a 1")
+	for _, id := range []string{"", "#", "a", "a#", "/a", "./a", "x:/a", "x:/a#", "x:/b/../a"} {
+		refused(t, api.ErrTwice, 0, "/not", doc("x:/a", `{"not":{"$id":"`+id+`"}}`))
+		refused(t, api.ErrTwice, 0, "/not", doc("x:/a", `{"not":{"$id":"`+id+`","$anchor":"c","not":{"$anchor":"c"}}}`))
+		refused(t, api.ErrTwice, 0, "/if/allOf/1/items", doc("x:/a", `{"if":{"allOf":[true,{"items":{"$id":"`+id+`"}}]},"not":{"$id":"`+id+`"}}`))
+		refused(t, api.ErrTwice, 0, "/not", doc("x:/b", `{"$id":"a","not":{"$id":"`+id+`"}}`))
+		refused(t, api.ErrTwice, 0, "/not/not", doc("x:/b", `{"not":{"$id":"a","not":{"$id":"`+id+`"}}}`))
+		refused(t, api.ErrTwice, 1, "/not/items", doc("x:/b", `{"$id":"c"}`), doc("x:/a", `{"$id":"a","not":{"items":{"$id":"`+id+`"}}}`))
+	}
+	for _, uri := range []string{"x:", "y:", "x:a", "x://h", "x:/a?q", "urn:a:b"} {
+		refused(t, api.ErrTwice, 0, "/items/then/propertyNames", doc(uri, `{"items":{"then":{"propertyNames":{"$id":""}}}}`))
+		refused(t, api.ErrTwice, 0, "/items", doc(uri, `{"items":{"$id":"","anyOf":[{"$anchor":"a"}]}}`))
+	}
+}
+
+// P13.3: a document's value has its Uri once, where its $id comes to that; it is no other resource by it, and its anchors are found.
+func TestIdOfTheSameUri(t *testing.T) {
+	for _, id := range []string{"", "#", "a", "a#", "/a", "./a", "x:/a", "x:/a#", "x:/b/../a"} {
+		table := read(t, doc("x:/a", `{"$id":"`+id+`","$anchor":"d","not":{"$dynamicAnchor":"e"}}`))
+		bases(t, table, "x:/a 0", "x:/a 0")
 		if want := []api.Id{{Uri: "x:/a"}}; !slices.Equal(table.Ids, want) {
 			t.Error(id, table.Ids)
 		}
-		if want := []api.Anchor{{Resource: 1, Name: "c", Schema: 2}}; !slices.Equal(table.Anchors, want) {
-			t.Error(id, table.Anchors)
+		found(t, table, "x:/a#d", 0)
+		found(t, table, "x:/a#e", 1)
+		table = read(t, doc("x:/b", `true`), doc("x:/a", `{"$id":"`+id+`"}`))
+		if want := []api.Id{{Uri: "x:/b"}, {Uri: "x:/a", Schema: 1}}; !slices.Equal(table.Ids, want) {
+			t.Error(id, table.Ids)
 		}
-	}
-	table := read(t, doc("x:/a", `{"$id":"b","not":{"$id":"b","not":{"$id":""}}}`))
-	bases(t, table, "x:/b 0", "x:/b 1", "x:/b 2")
-	if want := []api.Id{{Uri: "x:/a"}, {Uri: "x:/b"}}; !slices.Equal(table.Ids, want) {
-		t.Error(table.Ids)
 	}
 }
 

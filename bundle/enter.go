@@ -20,15 +20,16 @@ func (r *reading) enterAll(docs []api.Doc) api.Fault {
 	return api.Fault{}
 }
 
-// enterIds enters a document's URI, if the schema is its value, and the base that a $id makes. A $id that makes no other base names nothing that has no name yet.
+// enterIds enters a document's URI, if the schema is its value, and the base that a $id makes: a schema that is a resource of its own has one. A document's value has its URI already, so that a $id that comes to the same one names nothing twice.
 func (r *reading) enterIds(n int, document string) api.Errno {
 	s := &r.Schemas[n]
 	if s.At.Pointer == "" {
-		if errno := r.enterId(n, document); errno != api.OK {
+		errno := r.enterId(n, document)
+		if errno != api.OK || s.Base == document {
 			return errno
 		}
 	}
-	if s.Base != r.outer[n] {
+	if s.Resource == n {
 		return r.enterId(n, s.Base)
 	}
 	return api.OK

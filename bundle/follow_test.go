@@ -92,7 +92,6 @@ func isSchema(parts []string) bool {
 // model is what Read should answer of documents that have no fault of their own, by the chapter's words: all values' places are asked whether a schema stands there, and what it stands in is looked for among all that came ahead.
 func model(docs []api.Doc) (api.Table, api.Fault) {
 	var table api.Table
-	var would []string
 	for i, d := range docs {
 		whole, _, _ := json.Parse(d.Data)
 		for _, at := range pointer.All(whole) {
@@ -108,7 +107,6 @@ func model(docs []api.Doc) (api.Table, api.Fault) {
 					s.Resource, s.Base = outer.Resource, outer.Base
 				}
 			}
-			would = append(would, s.Base)
 			if id, ok := value.Get(s.V, "$id"); ok {
 				s.Resource, s.Base = n, resolved(s.Base, id.Text)
 			}
@@ -116,7 +114,7 @@ func model(docs []api.Doc) (api.Table, api.Fault) {
 		}
 	}
 	for n, s := range table.Schemas {
-		if !named(&table, n, docs[s.At.Doc].Uri, would[n]) {
+		if !named(&table, n, docs[s.At.Doc].Uri) {
 			return api.Table{}, api.Fault{Code: api.ErrTwice, At: s.At}
 		}
 	}
@@ -135,15 +133,16 @@ func resolved(base, s string) string {
 }
 
 // named puts a schema's Ids and Anchors into a table; false, if one of them is there.
-func named(table *api.Table, n int, uri, would string) bool {
+func named(table *api.Table, n int, uri string) bool {
 	s := table.Schemas[n]
 	var ids []api.Id
 	if s.At.Pointer == "" {
 		ids = append(ids, api.Id{Uri: uri, Schema: n})
 	}
-	if s.Base != would {
+	if _, ok := value.Get(s.V, "$id"); ok {
 		ids = append(ids, api.Id{Uri: s.Base, Schema: n})
 	}
+	ids = slices.Compact(ids) // of a document's value the one is told only if it is another than its Uri
 	for _, id := range ids {
 		if slices.ContainsFunc(table.Ids, func(other api.Id) bool { return other.Uri == id.Uri }) {
 			return false
@@ -234,16 +233,25 @@ func TestAllIsFound(t *testing.T) {
 	}
 }
 
-// P13.6: an anchor has its resource's URI, but where the $id that makes the resource makes no URI.
-func TestAnchorsHaveUris(t *testing.T) {
+// P13.6: every resource is found by its base, and every anchor by its resource's.
+func TestResourcesAreFound(t *testing.T) {
+	inner, anchors := 0, 0
 	bundles(func(docs []api.Doc) {
 		table, _ := Read(docs)
-		for _, a := range table.Anchors {
-			if slices.ContainsFunc(table.Ids, func(id api.Id) bool { return id.Schema == a.Resource }) {
-				found(t, table, table.Schemas[a.Resource].Base+"#"+a.Name, a.Schema)
+		for _, s := range table.Schemas {
+			found(t, table, s.Base, s.Resource)
+			if table.Schemas[s.Resource].At.Pointer != "" {
+				inner++
 			}
 		}
+		for _, a := range table.Anchors {
+			found(t, table, table.Schemas[a.Schema].Base+"#"+a.Name, a.Schema)
+			anchors++
+		}
 	})
+	if inner < 300 || anchors < 300 {
+		t.Error("too few are of use:", inner, anchors)
+	}
 }
 
 // scribble writes over all lists of a value, also behind their ends.

@@ -18,7 +18,6 @@ type nameIn struct {
 // reading is a bundle that is being read: its table, as far as it has come, and what was seen ahead.
 type reading struct {
 	api.Table
-	outer     []string            // of each schema the base that it would have without a $id
 	documents map[string]struct{} // the documents' URIs
 	ids       map[string]struct{} // the Ids' URIs
 	names     map[nameIn]struct{} // the Anchors' names
@@ -75,7 +74,6 @@ func (r *reading) gather(s api.Schema) api.Fault {
 	if len(r.Schemas) == api.MaxSchemas {
 		return wrong(api.ErrBundle, s.At.Doc, s.At.Pointer)
 	}
-	r.outer = append(r.outer, s.Base)
 	if id, ok := value.Get(s.V, "$id"); ok {
 		s.Base, s.Resource = joined(s.Base, id.Text), len(r.Schemas)
 	}
