@@ -4,6 +4,7 @@ import (
 	"slices"
 
 	"caliper/api"
+	"caliper/copies"
 )
 
 // form is what counts of a form while its rules are made simpler.
@@ -32,7 +33,7 @@ func begin(p api.Prog) *work {
 	for n, f := range p.Forms {
 		w.forms[n].never, w.forms[n].left = f.Never, len(f.Rules)
 		for _, r := range f.Rules {
-			w.add(rule{Rule: copied(r), form: n})
+			w.add(rule{Rule: copies.Rule(r), form: n})
 		}
 	}
 	return w
@@ -119,5 +120,5 @@ func (w *work) program(p api.Prog) api.Prog {
 			forms[r.form].Rules = append(forms[r.form].Rules, r.Rule)
 		}
 	}
-	return api.Prog{Forms: forms, Dyns: fresh(p.Dyns), Root: p.Root}
+	return api.Prog{Forms: forms, Dyns: copies.Row(p.Dyns), Root: p.Root}
 }
