@@ -2,6 +2,7 @@ package scope
 
 import (
 	"caliper/api"
+	"caliper/bindings"
 	"caliper/copies"
 )
 
@@ -14,7 +15,7 @@ type instance struct {
 // closing is a program of which a program of instances is made.
 type closing struct {
 	forms  []api.Form
-	scopes *scopes
+	scopes *bindings.Scopes
 	known  map[instance]int
 	order  []instance
 	made   []api.Form // those of the instances in their order, as far as they have been asked; their lists, but for Subs, are those of forms
@@ -22,14 +23,14 @@ type closing struct {
 
 // begin has Root's instance alone.
 func begin(p api.Prog) *closing {
-	c := &closing{forms: p.Forms, scopes: newScopes(p.Dyns), known: map[instance]int{}}
-	c.numberOf(p.Root, open)
+	c := &closing{forms: p.Forms, scopes: bindings.New(p.Dyns), known: map[instance]int{}}
+	c.numberOf(p.Root, bindings.Open)
 	return c
 }
 
 // numberOf is the number of the instance that a form is when it is asked in a scope.
 func (c *closing) numberOf(form int, scope int) int {
-	i := instance{form: form, scope: c.scopes.enter(scope, c.forms[form].Resource)}
+	i := instance{form: form, scope: c.scopes.Enter(scope, c.forms[form].Resource)}
 	number, ok := c.known[i]
 	if !ok {
 		number = len(c.order)
@@ -76,7 +77,7 @@ func (c *closing) asked(r api.Rule, sub int, scope int) int {
 	if r.Kind != api.RuDynamic {
 		return sub
 	}
-	if form := c.scopes.bound(scope, r.Names[0]); form != none {
+	if form := c.scopes.Bound(scope, r.Names[0]); form != bindings.None {
 		return form
 	}
 	return sub

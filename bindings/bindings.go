@@ -1,4 +1,5 @@
-package scope
+// Package bindings holds the scopes of a program's dynamic anchors, each as one number.
+package bindings
 
 import (
 	"slices"
@@ -6,16 +7,19 @@ import (
 	"caliper/api"
 )
 
+// Open is the scope in which no name is bound.
+const Open = 0
+
+// None is what stands instead of a form's number where no form is bound.
+const None = -1
+
 // Each node has as many parts as some bits of a place can tell.
 const (
 	bits  = 4
 	parts = 1 << bits
 )
 
-// open is a node, of whatever level, in which nothing is bound.
-const open = 0
-
-// node is a piece of a scope. Its parts are numbers of nodes of the level below it; below the lowest one each stands for one name, and is open or the number of the form bound, and one.
+// node is a piece of a scope. Its parts are numbers of nodes of the level below it; below the lowest one each stands for one name, and is Open or the number of the form bound, and one. In the node Open, of whatever level, nothing is bound.
 type node [parts]int
 
 // binding is what a resource binds: a name's place, and the form.
@@ -30,8 +34,8 @@ type entry struct {
 	resource int
 }
 
-// scopes are a program's scopes, as trees. Like nodes have one number, so a scope is its topmost node's number, and what is entered makes new nodes only where it binds something: as rows of numbers, the scopes of a long chain of resources, each with a name of its own, would cost the square of its length.
-type scopes struct {
+// Scopes are a program's scopes, as trees. Like nodes have one number, so a scope is its topmost node's number, and what is entered makes new nodes only where it binds something: as rows of numbers, the scopes of a long chain of resources, each with a name of its own, would cost the square of its length.
+type Scopes struct {
 	places  map[string]int
 	levels  int
 	binds   map[int][]binding // by resources
@@ -40,12 +44,13 @@ type scopes struct {
 	entered map[entry]int
 }
 
-func newScopes(dyns []api.Dyn) *scopes {
-	s := &scopes{
-		places:  places(dyns),
+// New has the scope Open alone.
+func New(dyns []api.Dyn) *Scopes {
+	s := &Scopes{
+		places:  Places(dyns),
 		binds:   map[int][]binding{},
-		nodes:   []node{open: {}},
-		numbers: map[node]int{{}: open},
+		nodes:   []node{Open: {}},
+		numbers: map[node]int{{}: Open},
 		entered: map[entry]int{},
 	}
 	for room := 1; room < len(s.places); room *= parts {
@@ -61,8 +66,19 @@ func newScopes(dyns []api.Dyn) *scopes {
 	return s
 }
 
-// enter is the scope that another one becomes when a resource is entered.
-func (s *scopes) enter(scope int, resource int) int {
+// Places has each name of dynamic anchors with its place in a scope.
+func Places(dyns []api.Dyn) map[string]int {
+	at := map[string]int{}
+	for _, d := range dyns {
+		if _, ok := at[d.Name]; !ok {
+			at[d.Name] = len(at)
+		}
+	}
+	return at
+}
+
+// Enter is the scope that another one becomes when a resource is entered.
+func (s *Scopes) Enter(scope int, resource int) int {
 	row := s.binds[resource]
 	if len(row) == 0 {
 		return scope
@@ -76,10 +92,23 @@ func (s *scopes) enter(scope int, resource int) int {
 	return number
 }
 
+// Bound is the form that a scope has for a name, or None.
+func (s *Scopes) Bound(scope int, name string) int {
+	place, ok := s.places[name]
+	if !ok {
+		return None
+	}
+	number := scope
+	for levels := s.levels; levels > 0; levels-- {
+		number = s.nodes[number][partOf(place, levels)]
+	}
+	return number - 1
+}
+
 // bind is what becomes of a node with some levels in it, if what is open of a row's places in it is bound.
-func (s *scopes) bind(number int, row []binding, levels int) int {
+func (s *Scopes) bind(number int, row []binding, levels int) int {
 	if levels == 0 {
-		if number == open {
+		if number == Open {
 			return row[0].form + 1
 		}
 		return number
@@ -97,7 +126,7 @@ func (s *scopes) bind(number int, row []binding, levels int) int {
 	return s.numberOf(n)
 }
 
-func (s *scopes) numberOf(n node) int {
+func (s *Scopes) numberOf(n node) int {
 	number, ok := s.numbers[n]
 	if !ok {
 		number = len(s.nodes)
@@ -105,19 +134,6 @@ func (s *scopes) numberOf(n node) int {
 		s.nodes = append(s.nodes, n)
 	}
 	return number
-}
-
-// bound is the form that a scope has for a name, or none.
-func (s *scopes) bound(scope int, name string) int {
-	place, ok := s.places[name]
-	if !ok {
-		return none
-	}
-	number := scope
-	for levels := s.levels; levels > 0; levels-- {
-		number = s.nodes[number][partOf(place, levels)]
-	}
-	return number - 1
 }
 
 // partOf is the part in which a place stands of a node with some levels in it.
